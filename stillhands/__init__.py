@@ -1,0 +1,1 @@
+"""Stillhands: things for several hands that nobody can hold up."""
