@@ -7,9 +7,18 @@ CLASSES = {
     "stillhands.boxes": {
         "Boxes": {"__init__": ["self", "many"], "take": ["self", "place"], "put": ["self", "place", "number"]},
     },
+    "stillhands.plain": {"Plain": {"__init__": ["self", "many"], "done": ["self", "hand", "deed"]}},
+    "stillhands.hall": {
+        "Hall": {
+            "__init__": ["self", "plans"], "step": ["self", "hand"], "weave": ["self", "row"],
+            "steps_of": ["self", "hand"], "records": ["self"], "order": ["self"], "touches": ["self"],
+        },
+    },
 }
 FUNCTIONS = {
     "stillhands.packing": {"packed": ["row"], "parted": ["number"]},
+    "stillhands.deeds": {"need_deed": ["deed", "hand"], "most_steps": ["deed", "many"]},
+    "stillhands.judging": {"keeps": ["records", "order", "many"], "found_order": ["records", "many"]},
 }
 
 
